@@ -103,8 +103,8 @@ func byHand(t *testing.T, place int) {
 	}
 }
 
-// inWords checks a sign for small numbers, values or not, against a function that counts what the document tells.
-func inWords(t *testing.T, place int, told func(steps, a, b int) int) {
+// countedInWords checks a function of two values for small numbers, values or not, against one that counts what the document tells.
+func countedInWords(t *testing.T, name string, of, told func(steps, a, b int) int) {
 	t.Helper()
 	for steps := -2; steps <= 9; steps++ {
 		for a := -3; a <= 10; a++ {
@@ -113,10 +113,16 @@ func inWords(t *testing.T, place int, told func(steps, a, b int) int) {
 				if 1 <= steps && steps <= 6 && 0 <= a && a <= steps && 0 <= b && b <= steps {
 					want = told(steps, a, b)
 				}
-				equals(t, signsOfTwo[place].name, steps, a, b, signsOfTwo[place].of(steps, a, b), want)
+				equals(t, name, steps, a, b, of(steps, a, b), want)
 			}
 		}
 	}
+}
+
+// inWords checks a sign, told by its place in signsOfTwo, against a function that counts what the document tells.
+func inWords(t *testing.T, place int, told func(steps, a, b int) int) {
+	t.Helper()
+	countedInWords(t, signsOfTwo[place].name, signsOfTwo[place].of, told)
 }
 
 // refusesOthers checks that a sign has no value where one of both numbers is no value of a chain.
